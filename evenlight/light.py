@@ -5,6 +5,8 @@ NONE_SUCH = -6
 
 MOST_BYTES = 65536
 MOST_SIDE = 256
+MOST_AROUND = 64
+WHOLE = 256
 WHITE = 255
 WORD_BITS = 32
 
@@ -61,6 +63,45 @@ def li_black(w, t, x):
     return [0] + words_of_page(w, [1 if value <= t else 0 for value in x])
 
 
+def li_around(w, d, part, x):
+    """Dots where a byte of the page is less than part / 256 of the mean around it, d to all sides."""
+    if not is_page(w, x) or d > MOST_AROUND or part > WHOLE:
+        return [OUT_OF_RANGE]
+    sums = sums_of_page(w, x)
+    dots = []
+    for r in range(len(x) // w):
+        dots.extend(dots_of_row(w, d, part, x, sums, r))
+    return [0] + words_of_page(w, dots)
+
+
+def li_sums(w, x):
+    """At each column and row the sum of all bytes in columns and rows before them."""
+    if not is_page(w, x):
+        return [OUT_OF_RANGE]
+    return [0] + sums_of_page(w, x)
+
+
+def li_median(w, x):
+    """Each byte becomes the fifth of the nine around it, the rim counting once more beyond itself."""
+    if not is_page(w, x):
+        return [OUT_OF_RANGE]
+    h = len(x) // w
+    rows = with_rim([with_rim(row_of(w, x, r)) for r in range(h)])
+    medians = []
+    for r in range(h):
+        for c in range(w):
+            nine = rows[r][c:c + 3] + rows[r + 1][c:c + 3] + rows[r + 2][c:c + 3]
+            medians.append(sorted(nine)[4])
+    return [0] + medians
+
+
+def li_darkest(w, d, x):
+    """Each byte becomes the least around it, d to all sides."""
+    if not is_page(w, x) or d > MOST_AROUND:
+        return [OUT_OF_RANGE]
+    return [0] + darkest_of_page(w, d, x)
+
+
 def is_page(w, x):
     """Whether x is a page of rows of w bytes, as wide and as high as a page may be."""
     # The width comes first: by a width of 0 no rows can be counted.
@@ -68,6 +109,77 @@ def is_page(w, x):
         return False
     h = len(x) // w
     return h >= 1 and h <= MOST_SIDE
+
+
+def row_of(w, x, r):
+    """Row r of rows of w numbers."""
+    return x[r * w:(r + 1) * w]
+
+
+def sums_of_page(w, x):
+    """One row more than the page has, each of w + 1 sums: of the bytes in columns and rows before."""
+    above = [0] * (w + 1)
+    sums = list(above)
+    for r in range(len(x) // w):
+        above = sums_below(above, row_of(w, x, r))
+        sums.extend(above)
+    return sums
+
+
+def sums_below(above, row):
+    """The row of sums that follows the sums above, with a row of bytes in between."""
+    sums = [0]
+    along = 0
+    for c in range(len(row)):
+        along += row[c]
+        sums.append(above[c + 1] + along)
+    return sums
+
+
+def dots_of_row(w, d, part, x, sums, r):
+    """The dots of row r, by the sums of the page x."""
+    top = max(r - d, 0)
+    bottom = min(r + d + 1, len(x) // w)
+    above = row_of(w + 1, sums, top)
+    below = row_of(w + 1, sums, bottom)
+    dots = []
+    for c in range(w):
+        left = max(c - d, 0)
+        right = min(c + d + 1, w)
+        number = (right - left) * (bottom - top)
+        total = below[right] - below[left] - above[right] + above[left]
+        dots.append(1 if WHOLE * number * x[r * w + c] < part * total else 0)
+    return dots
+
+
+def with_rim(line):
+    """The line with its first once more ahead of it and its last once more behind it."""
+    return [line[0]] + line + [line[len(line) - 1]]
+
+
+def darkest_of_page(w, d, x):
+    """The least around each place of the page, d to all sides."""
+    # The least of a square is the least of its rows' leasts: two short walks in place of a long one.
+    h = len(x) // w
+    leasts = turned_page(w, leasts_in_rows(w, d, x))
+    return turned_page(h, leasts_in_rows(h, d, leasts))
+
+
+def leasts_in_rows(w, d, x):
+    """The least at most d columns away from each place, within its row alone."""
+    leasts = []
+    for r in range(len(x) // w):
+        row = row_of(w, x, r)
+        leasts.extend([min(row[max(c - d, 0):c + d + 1]) for c in range(w)])
+    return leasts
+
+
+def turned_page(w, x):
+    """The page's columns as rows, the first column the first."""
+    turned = []
+    for c in range(w):
+        turned.extend([x[place] for place in range(c, len(x), w)])
+    return turned
 
 
 def words_of_page(w, dots):

@@ -34,6 +34,17 @@ CASES = (
     ("li_black", (33, 120, PAGE)),
     ("li_black", (33, 256, PAGE)),
     ("li_black", (257, 0, [0] * 257)),
+    ("li_around", (33, 2, 250, PAGE)),
+    ("li_around", (33, 64, 256, PAGE)),
+    ("li_around", (33, 65, 250, PAGE)),
+    ("li_around", (33, 2, 257, PAGE)),
+    ("li_sums", (33, PAGE)),
+    ("li_sums", (0, [])),
+    ("li_median", (33, PAGE)),
+    ("li_median", (1, [4] * 257)),
+    ("li_darkest", (33, 2, PAGE)),
+    ("li_darkest", (33, 0, PAGE)),
+    ("li_darkest", (33, 65, PAGE)),
 )
 
 
@@ -88,6 +99,10 @@ class EachCallAloneTest(unittest.TestCase):
         self.assertEqual(light.li_best(k=[1, 1] + [0] * 254), [0])
         self.assertEqual(light.li_kth(k=1, x=[4]), [4])
         self.assertEqual(light.li_black(w=1, t=0, x=[0]), [0, 1])
+        self.assertEqual(light.li_around(w=2, d=1, part=256, x=[0, 1]), [0, 1])
+        self.assertEqual(light.li_sums(w=1, x=[4]), [0, 0, 0, 0, 4])
+        self.assertEqual(light.li_median(w=1, x=[4]), [0, 4])
+        self.assertEqual(light.li_darkest(w=2, d=1, x=[4, 3]), [0, 3, 3])
 
     def test_nothing_is_printed(self):
         told = io.StringIO()
