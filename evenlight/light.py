@@ -102,6 +102,34 @@ def li_darkest(w, d, x):
     return [0] + darkest_of_page(w, d, x)
 
 
+def li_lightest(w, d, x):
+    """Each byte becomes the greatest around it, d to all sides."""
+    if not is_page(w, x) or d > MOST_AROUND:
+        return [OUT_OF_RANGE]
+    return [0] + lightest_of_page(w, d, x)
+
+
+def li_behind(w, d, x):
+    """What lies behind the letters: of the lightest around each place the darkest around it."""
+    if not is_page(w, x) or d > MOST_AROUND:
+        return [OUT_OF_RANGE]
+    return [0] + darkest_of_page(w, d, lightest_of_page(w, d, x))
+
+
+def li_even(x, b):
+    """Each byte of x made even by its byte of b, what lies behind it."""
+    if len(x) > MOST_BYTES:
+        return [OUT_OF_RANGE]
+    return [0] + [even_byte(value, behind) for value, behind in zip(x, b)]
+
+
+def li_levels(lo, hi, x):
+    """Each byte drawn out from lo to hi over all bytes: 0 up to lo, 255 from hi on."""
+    if lo >= hi or hi > WHITE or len(x) > MOST_BYTES:
+        return [OUT_OF_RANGE]
+    return [0] + [level_byte(lo, hi, value) for value in x]
+
+
 def is_page(w, x):
     """Whether x is a page of rows of w bytes, as wide and as high as a page may be."""
     # The width comes first: by a width of 0 no rows can be counted.
@@ -165,6 +193,17 @@ def darkest_of_page(w, d, x):
     return turned_page(h, leasts_in_rows(h, d, leasts))
 
 
+def lightest_of_page(w, d, x):
+    """The greatest around each place of the page, d to all sides."""
+    # Where the light is turned about, the greatest is the least.
+    return negative(darkest_of_page(w, d, negative(x)))
+
+
+def negative(x):
+    """Bytes with their light turned about: black is white, white is black."""
+    return [WHITE - value for value in x]
+
+
 def leasts_in_rows(w, d, x):
     """The least at most d columns away from each place, within its row alone."""
     leasts = []
@@ -180,6 +219,22 @@ def turned_page(w, x):
     for c in range(w):
         turned.extend([x[place] for place in range(c, len(x), w)])
     return turned
+
+
+def even_byte(value, behind):
+    """The byte's share of what lies behind it, rounded to the nearest; white is the most."""
+    if behind == 0:
+        return WHITE
+    return min((WHITE * value + behind // 2) // behind, WHITE)
+
+
+def level_byte(lo, hi, value):
+    """The byte's share of the way from lo to hi, rounded to the nearest."""
+    if value <= lo:
+        return 0
+    if value >= hi:
+        return WHITE
+    return (WHITE * (value - lo) + (hi - lo) // 2) // (hi - lo)
 
 
 def words_of_page(w, dots):

@@ -45,6 +45,18 @@ CASES = (
     ("li_darkest", (33, 2, PAGE)),
     ("li_darkest", (33, 0, PAGE)),
     ("li_darkest", (33, 65, PAGE)),
+    ("li_lightest", (33, 2, PAGE)),
+    ("li_lightest", (33, 0, PAGE)),
+    ("li_lightest", (33, 65, PAGE)),
+    ("li_behind", (33, 1, PAGE)),
+    ("li_behind", (33, 0, PAGE)),
+    ("li_behind", (33, 65, PAGE)),
+    ("li_even", (PAGE, PAGE[::-1])),
+    ("li_even", ([], [])),
+    ("li_even", ([3] * 65537, [4] * 65537)),
+    ("li_levels", (40, 200, PAGE)),
+    ("li_levels", (0, 255, PAGE)),
+    ("li_levels", (200, 40, PAGE)),
 )
 
 
@@ -103,6 +115,10 @@ class EachCallAloneTest(unittest.TestCase):
         self.assertEqual(light.li_sums(w=1, x=[4]), [0, 0, 0, 0, 4])
         self.assertEqual(light.li_median(w=1, x=[4]), [0, 4])
         self.assertEqual(light.li_darkest(w=2, d=1, x=[4, 3]), [0, 3, 3])
+        self.assertEqual(light.li_lightest(w=2, d=1, x=[4, 3]), [0, 4, 4])
+        self.assertEqual(light.li_behind(w=2, d=1, x=[4, 3]), [0, 4, 4])
+        self.assertEqual(light.li_even(x=[1], b=[2]), [0, 128])
+        self.assertEqual(light.li_levels(lo=1, hi=3, x=[2]), [0, 128])
 
     def test_nothing_is_printed(self):
         told = io.StringIO()

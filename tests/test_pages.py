@@ -18,11 +18,15 @@ PAGE_CALLS = {
     "li_sums": (lambda w, x: light.li_sums(w, x), lambda w, h: (h + 1) * (w + 1)),
     "li_median": (lambda w, x: light.li_median(w, x), lambda w, h: h * w),
     "li_darkest": (lambda w, x: light.li_darkest(w, 3, x), lambda w, h: h * w),
+    "li_lightest": (lambda w, x: light.li_lightest(w, 3, x), lambda w, h: h * w),
+    "li_behind": (lambda w, x: light.li_behind(w, 3, x), lambda w, h: h * w),
 }
 
 CALLS_WITH_D = {
     "li_around": lambda w, d, x: light.li_around(w, d, 230, x),
     "li_darkest": lambda w, d, x: light.li_darkest(w, d, x),
+    "li_lightest": lambda w, d, x: light.li_lightest(w, d, x),
+    "li_behind": lambda w, d, x: light.li_behind(w, d, x),
 }
 
 
