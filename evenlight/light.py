@@ -85,10 +85,9 @@ def li_median(w, x):
     """Each byte becomes the fifth of the nine around it, the rim counting once more beyond itself."""
     if not is_page(w, x):
         return [OUT_OF_RANGE]
-    h = len(x) // w
-    rows = with_rim([with_rim(row_of(w, x, r)) for r in range(h)])
+    rows = rows_with_rim(w, x)
     medians = []
-    for r in range(h):
+    for r in range(len(x) // w):
         for c in range(w):
             nine = rows[r][c:c + 3] + rows[r + 1][c:c + 3] + rows[r + 2][c:c + 3]
             medians.append(sorted(nine)[4])
@@ -128,6 +127,41 @@ def li_levels(lo, hi, x):
     if lo >= hi or hi > WHITE or len(x) > MOST_BYTES:
         return [OUT_OF_RANGE]
     return [0] + [level_byte(lo, hi, value) for value in x]
+
+
+def li_table(x, t):
+    """Each byte becomes the number of the table t that stands at its place."""
+    if len(x) > MOST_BYTES:
+        return [OUT_OF_RANGE]
+    return [0] + [t[value] for value in x]
+
+
+def li_half(w, x):
+    """The page by half: of each two columns and two rows the mean; a last odd one is left out."""
+    if not is_page(w, x):
+        return [OUT_OF_RANGE]
+    halves = []
+    for r in range(0, len(x) // w - 1, 2):
+        halves.extend(half_of_rows(row_of(w, x, r), row_of(w, x, r + 1)))
+    return [0] + halves
+
+
+def li_blend(k, x, y):
+    """Each byte of x blended with its byte of y, of which k parts of 256 are taken."""
+    if k > WHOLE or len(x) > MOST_BYTES:
+        return [OUT_OF_RANGE]
+    return [0] + [(one * (WHOLE - k) + other * k + WHOLE // 2) // WHOLE for one, other in zip(x, y)]
+
+
+def li_sharper(w, k, x):
+    """Each byte is led away from the four beside it by k parts of 64, the rim counting once more beyond itself."""
+    if not is_page(w, x) or k > WHOLE:
+        return [OUT_OF_RANGE]
+    rows = rows_with_rim(w, x)
+    sharper = []
+    for r in range(len(x) // w):
+        sharper.extend(sharper_row(k, rows[r], rows[r + 1], rows[r + 2]))
+    return [0] + sharper
 
 
 def is_page(w, x):
@@ -185,6 +219,11 @@ def with_rim(line):
     return [line[0]] + line + [line[len(line) - 1]]
 
 
+def rows_with_rim(w, x):
+    """The page's rows with its rim once more around them."""
+    return with_rim([with_rim(row_of(w, x, r)) for r in range(len(x) // w)])
+
+
 def darkest_of_page(w, d, x):
     """The least around each place of the page, d to all sides."""
     # The least of a square is the least of its rows' leasts: two short walks in place of a long one.
@@ -235,6 +274,25 @@ def level_byte(lo, hi, value):
     if value >= hi:
         return WHITE
     return (WHITE * (value - lo) + (hi - lo) // 2) // (hi - lo)
+
+
+def half_of_rows(upper, lower):
+    """One row of two: of each two columns the mean of the four, rounded to the nearest."""
+    return [(upper[c] + upper[c + 1] + lower[c] + lower[c + 1] + 2) // 4 for c in range(0, len(upper) - 1, 2)]
+
+
+def sharper_row(k, above, row, below):
+    """The row led away from what is beside it; all three rows have their rim around them."""
+    sharper = []
+    for c in range(1, len(row) - 1):
+        beside = row[c - 1] + row[c + 1] + above[c] + below[c]
+        sharper.append(held(row[c] + (k * (4 * row[c] - beside) + 32) // 64, 0, WHITE))
+    return sharper
+
+
+def held(number, least, most):
+    """The number, or the end of the range from least to most that it lies beyond."""
+    return max(least, min(number, most))
 
 
 def words_of_page(w, dots):

@@ -21,6 +21,7 @@ class SealedList(list):
 
 COUNTS = [5] + [0] * 100 + [7, 1, 1] + [0] * 151 + [MOST]
 PAGE = [(place * 91) % 256 for place in range(33 * 4)]
+TABLE = [(value * 7 + 3) % 256 for value in range(256)]
 
 CASES = (
     ("li_counts", (PAGE,)),
@@ -57,6 +58,19 @@ CASES = (
     ("li_levels", (40, 200, PAGE)),
     ("li_levels", (0, 255, PAGE)),
     ("li_levels", (200, 40, PAGE)),
+    ("li_table", (PAGE, TABLE)),
+    ("li_table", ([], TABLE)),
+    ("li_table", ([3] * 65537, TABLE)),
+    ("li_half", (33, PAGE)),
+    ("li_half", (1, PAGE)),
+    ("li_half", (0, [])),
+    ("li_blend", (100, PAGE, PAGE[::-1])),
+    ("li_blend", (0, PAGE, PAGE[::-1])),
+    ("li_blend", (256, PAGE, PAGE[::-1])),
+    ("li_blend", (257, PAGE, PAGE[::-1])),
+    ("li_sharper", (33, 64, PAGE)),
+    ("li_sharper", (33, 0, PAGE)),
+    ("li_sharper", (33, 257, PAGE)),
 )
 
 
@@ -119,6 +133,10 @@ class EachCallAloneTest(unittest.TestCase):
         self.assertEqual(light.li_behind(w=2, d=1, x=[4, 3]), [0, 4, 4])
         self.assertEqual(light.li_even(x=[1], b=[2]), [0, 128])
         self.assertEqual(light.li_levels(lo=1, hi=3, x=[2]), [0, 128])
+        self.assertEqual(light.li_table(x=[1], t=[5, 6] + [7] * 254), [0, 6])
+        self.assertEqual(light.li_half(w=2, x=[1, 2, 3, 4]), [0, 3])
+        self.assertEqual(light.li_blend(k=64, x=[0], y=[100]), [0, 25])
+        self.assertEqual(light.li_sharper(w=2, k=64, x=[10, 12]), [0, 8, 14])
 
     def test_nothing_is_printed(self):
         told = io.StringIO()

@@ -20,6 +20,8 @@ PAGE_CALLS = {
     "li_darkest": (lambda w, x: light.li_darkest(w, 3, x), lambda w, h: h * w),
     "li_lightest": (lambda w, x: light.li_lightest(w, 3, x), lambda w, h: h * w),
     "li_behind": (lambda w, x: light.li_behind(w, 3, x), lambda w, h: h * w),
+    "li_half": (lambda w, x: light.li_half(w, x), lambda w, h: (h // 2) * (w // 2)),
+    "li_sharper": (lambda w, x: light.li_sharper(w, 64, x), lambda w, h: h * w),
 }
 
 CALLS_WITH_D = {
