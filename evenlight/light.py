@@ -6,8 +6,11 @@ NONE_SUCH = -6
 MOST_BYTES = 65536
 MOST_SIDE = 256
 MOST_AROUND = 64
+MOST_MODE = 2
 WHOLE = 256
 WHITE = 255
+BYTE_SPAN = 256
+SHORT_SPAN = 65536
 WORD_BITS = 32
 
 
@@ -164,6 +167,25 @@ def li_sharper(w, k, x):
     return [0] + sharper
 
 
+def li_narrow(mode, x):
+    """Each word of 16 bits made a byte: 0 cuts it off, 1 holds it, 2 holds it with a sign."""
+    if mode > MOST_MODE or len(x) > MOST_BYTES:
+        return [OUT_OF_RANGE]
+    return [0] + [narrow_word(mode, word) for word in x]
+
+
+def li_apart(x, y):
+    """How far x and y are apart, summed up place by place."""
+    if len(x) > MOST_BYTES:
+        return [OUT_OF_RANGE]
+    return [sum([abs(one - other) for one, other in zip(x, y)])]
+
+
+def li_even1(a, b):
+    """What li_even makes of one byte: a's lowest eight bits by those of b."""
+    return [even_byte(a % BYTE_SPAN, b % BYTE_SPAN)]
+
+
 def is_page(w, x):
     """Whether x is a page of rows of w bytes, as wide and as high as a page may be."""
     # The width comes first: by a width of 0 no rows can be counted.
@@ -293,6 +315,16 @@ def sharper_row(k, above, row, below):
 def held(number, least, most):
     """The number, or the end of the range from least to most that it lies beyond."""
     return max(least, min(number, most))
+
+
+def narrow_word(mode, word):
+    """The byte that the word of 16 bits becomes in that mode."""
+    if mode == 0:
+        return word % BYTE_SPAN
+    if mode == 1:
+        return held(word, 0, WHITE)
+    signed = word if word < SHORT_SPAN // 2 else word - SHORT_SPAN
+    return held(signed, -128, 127) % BYTE_SPAN
 
 
 def words_of_page(w, dots):
